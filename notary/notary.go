@@ -16,32 +16,6 @@ func Write(nodes []api.Node) (string, api.Errno) { return wire.WriteProof(nodes)
 // Read reads a proof's nodes (P5).
 func Read(b string) ([]api.Node, api.Errno) { return wire.ReadProof(b) }
 
-// Store keeps a log and a table.
-type Store struct{}
-
-// New makes an empty store (P6).
-func New() *Store { return nil }
-
-// Append lays a value behind the log (P7).
-func (s *Store) Append(v int) api.Errno { return api.OK }
-
-// Set lays a value under a key of the table (P8).
-func (s *Store) Set(key int, v int) api.Errno { return api.OK }
-
-// Delete takes a key out of the table (P8).
-func (s *Store) Delete(key int) api.Errno { return api.OK }
-
-// Head tells the head of the log as it was at a size, or of the table (P9).
-func (s *Store) Head(tree int, size int) (api.Head, api.Errno) { return api.Head{}, api.OK }
-
-// Ask tells what the values of a range come to, and the proof (P10).
-func (s *Store) Ask(tree int, from int, to int) (api.Fold, string, api.Errno) {
-	return api.Fold{}, "", api.OK
-}
-
-// Grown tells the proof that the log at one size begins the log as it is (P11).
-func (s *Store) Grown(size int) (string, api.Errno) { return "", api.OK }
-
 // Check tells whether a proof shows that the values of a range come to this (P12).
 func Check(tree int, h api.Head, from int, to int, claim api.Fold, proof string) api.Errno {
 	return api.OK

@@ -5,9 +5,12 @@ import (
 	"notary/digest"
 )
 
+// EmptyText is the text of the empty node.
+const EmptyText = "E"
+
 // Empty is the node of a part in which nothing lies.
 func Empty() api.Node {
-	return api.Node{Hash: digest.Of("E")}
+	return api.Node{Hash: digest.Of(EmptyText)}
 }
 
 // MayBe tells whether n has bytes.

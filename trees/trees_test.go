@@ -1,0 +1,94 @@
+package trees_test
+
+import (
+	"slices"
+	"testing"
+
+	"notary/api"
+	"notary/trees"
+)
+
+func TestCover(t *testing.T) {
+	for _, c := range []struct {
+		size, from, to int
+		want           []trees.Part
+	}{
+		{0, 0, 0, []trees.Part{{0, 0}}},
+		{1, 0, 0, []trees.Part{{0, 1}}},
+		{1, 0, 1, []trees.Part{{0, 1}}},
+		{3, 0, 3, []trees.Part{{0, 3}}},
+		{3, 1, 1, []trees.Part{{0, 3}}},
+		{3, 0, 2, []trees.Part{{0, 2}, {2, 3}}},
+		{3, 1, 2, []trees.Part{{0, 1}, {1, 2}, {2, 3}}},
+		{7, 2, 5, []trees.Part{{0, 2}, {2, 4}, {4, 5}, {5, 6}, {6, 7}}},
+		{7, 6, 7, []trees.Part{{0, 4}, {4, 6}, {6, 7}}},
+		{32, 5, 6, []trees.Part{{0, 4}, {4, 5}, {5, 6}, {6, 8}, {8, 16}, {16, 32}}},
+	} {
+		got := slices.Collect(trees.Cover(c.size, trees.Part{From: c.from, To: c.to}))
+		if !slices.Equal(got, c.want) {
+			t.Errorf("the cover of %d to %d of %d: %v, want %v", c.from, c.to, c.size, got, c.want)
+		}
+	}
+}
+
+// Who ranges over a cover may leave off at any part, and may begin again.
+func TestCoverLeftOff(t *testing.T) {
+	cover := trees.Cover(64, trees.Part{From: 13, To: 50})
+	all := slices.Collect(cover)
+	for stop := range all {
+		var got []trees.Part
+		for p := range cover {
+			got = append(got, p)
+			if len(got) == stop+1 {
+				break
+			}
+		}
+		if !slices.Equal(got, all[:stop+1]) {
+			t.Errorf("%d parts: %v, want %v", stop+1, got, all[:stop+1])
+		}
+	}
+}
+
+func TestTogether(t *testing.T) {
+	fold := func(count, sum, least, most int) api.Fold {
+		return api.Fold{Count: count, Sum: sum, Min: least, Max: most}
+	}
+	for _, c := range [][3]api.Fold{
+		{fold(0, 0, 0, 0), fold(0, 0, 0, 0), fold(0, 0, 0, 0)},
+		{fold(0, 0, 0, 0), fold(2, 9, 4, 5), fold(2, 9, 4, 5)},
+		{fold(2, 9, 4, 5), fold(0, 0, 0, 0), fold(2, 9, 4, 5)},
+		{fold(2, 9, 4, 5), fold(1, 7, 7, 7), fold(3, 16, 4, 7)},
+		{fold(1, 7, 7, 7), fold(2, 9, 4, 5), fold(3, 16, 4, 7)},
+		{fold(1, 0, 0, 0), fold(1, 7, 7, 7), fold(2, 7, 0, 7)},
+		// folds of no values, as a wrong proof may have them
+		{fold(0, 3, 8, 9), fold(2, 9, 4, 5), fold(2, 12, 4, 5)},
+		{fold(2, 9, 4, 5), fold(0, 3, 1, 9), fold(2, 12, 4, 5)},
+		{fold(0, 3, 8, 9), fold(0, 4, 5, 6), fold(0, 7, 5, 6)},
+	} {
+		if got := trees.Together(c[0], c[1]); got != c[2] {
+			t.Errorf("%v and %v: %v, want %v", c[0], c[1], got, c[2])
+		}
+	}
+}
+
+func TestApartAndWithin(t *testing.T) {
+	for _, c := range []struct {
+		p, r          trees.Part
+		apart, within bool
+	}{
+		{trees.Part{From: 2, To: 4}, trees.Part{From: 2, To: 4}, false, true},
+		{trees.Part{From: 2, To: 4}, trees.Part{From: 1, To: 5}, false, true},
+		{trees.Part{From: 2, To: 4}, trees.Part{From: 3, To: 5}, false, false},
+		{trees.Part{From: 2, To: 4}, trees.Part{From: 1, To: 3}, false, false},
+		{trees.Part{From: 2, To: 4}, trees.Part{From: 4, To: 5}, true, false},
+		{trees.Part{From: 2, To: 4}, trees.Part{From: 0, To: 2}, true, false},
+		{trees.Part{From: 2, To: 4}, trees.Part{From: 3, To: 3}, true, false},
+		{trees.Part{From: 0, To: 1}, trees.Part{From: 0, To: 0}, true, false},
+		// an empty range has no part, not even that of a log without entries
+		{trees.Part{From: 0, To: 0}, trees.Part{From: 0, To: 0}, true, false},
+	} {
+		if a, w := c.p.Apart(c.r), c.p.Within(c.r); a != c.apart || w != c.within {
+			t.Errorf("%v in %v: apart %v, within %v", c.p, c.r, a, w)
+		}
+	}
+}
