@@ -15,21 +15,23 @@ type asked struct {
 	proof    string
 }
 
-func wantAsked(t *testing.T, s *notary.Store, tree int, l []asked) {
+// wantAsked asks that a store tells these answers, and that they are taken with the head.
+func wantAsked(t *testing.T, s *notary.Store, tree int, h api.Head, l []asked) {
 	t.Helper()
 	for _, q := range l {
 		if f, p, e := s.Ask(tree, q.from, q.to); f != q.fold || p != q.proof || e != api.OK {
 			t.Errorf("Ask(%d, %d, %d) = %v, %q, %d, want %v, %q", tree, q.from, q.to, f, p, e, q.fold, q.proof)
 		}
+		wantCheck(t, question{tree, h, q.from, q.to, q.fold, q.proof}, api.OK)
 	}
 }
 
-// The proofs here were worked out apart from this program.
+// The proofs and heads here were worked out apart from this program.
 func TestAskLog(t *testing.T) {
 	whole := "\x01\x03\x11\x03\x09\x31\x13"
 	left, nine := "\x01\x02\x08\x03\x05\xb3\x35", "\x01\x01\x09\x09\x09\x5d\x65"
 	five, three := "\x01\x01\x05\x05\x05\x5d\x61", "\x01\x01\x03\x03\x03\x5d\x5f"
-	wantAsked(t, (&model{log: []int{5, 3, 9}}).storeOf(t), api.Log, []asked{
+	wantAsked(t, (&model{log: []int{5, 3, 9}}).storeOf(t), api.Log, api.Head{Size: 3, Root: api.Digest{245, 4}}, []asked{
 		{0, 3, api.Fold{Count: 3, Sum: 17, Min: 3, Max: 9}, whole},
 		{0, 0, api.Fold{}, whole},
 		{1, 1, api.Fold{}, whole},
@@ -40,7 +42,7 @@ func TestAskLog(t *testing.T) {
 		{0, 2, api.Fold{Count: 2, Sum: 8, Min: 3, Max: 5}, left + nine},
 		{2, 3, api.Fold{Count: 1, Sum: 9, Min: 9, Max: 9}, left + nine},
 	})
-	wantAsked(t, (&model{log: []int{0, 1000000, 300, 7, 127, 128, 16384}}).storeOf(t), api.Log, []asked{
+	wantAsked(t, (&model{log: []int{0, 1000000, 300, 7, 127, 128, 16384}}).storeOf(t), api.Log, api.Head{Size: 7, Root: api.Digest{65, 175}}, []asked{
 		{0, 7, api.Fold{Count: 7, Sum: 1016946, Min: 0, Max: 1000000}, "\x01\x07\xf2\x88\x3e\x00\xc0\x84\x3d\x6a\xd2"},
 		{2, 5, api.Fold{Count: 3, Sum: 434, Min: 7, Max: 300}, "\x01\x02\xc0\x84\x3d\x00\xc0\x84\x3d\x2f\x57\x01\x02\xb3\x02\x07\xac\x02\x80\xa5\x01\x01\x7f\x7f\x7f\x5d\xdb\x01\x01\x80\x01\x80\x01\x80\x01\x72\xa6\x01\x01\x80\x80\x01\x80\x80\x01\x80\x80\x01\x51\xef"},
 		{6, 7, api.Fold{Count: 1, Sum: 16384, Min: 16384, Max: 16384}, "\x01\x04\xf3\x86\x3d\x00\xc0\x84\x3d\x13\x82\x01\x02\xff\x01\x7f\x80\x01\x0d\x13\x01\x01\x80\x80\x01\x80\x80\x01\x80\x80\x01\x51\xef"},
@@ -48,13 +50,13 @@ func TestAskLog(t *testing.T) {
 }
 
 func TestAskTable(t *testing.T) {
-	wantAsked(t, notary.New(), api.Table, []asked{
+	wantAsked(t, notary.New(), api.Table, api.Head{Size: 32, Root: api.Digest{139, 138}}, []asked{
 		{0, 32, api.Fold{}, "\x00"},
 		{5, 6, api.Fold{}, "\x00\x00\x00\x00\x00\x00"},
 		{7, 7, api.Fold{}, "\x00"},
 	})
 	whole := "\x01\x02\xac\x02\x00\xac\x02\xd7\x4b"
-	wantAsked(t, (&model{table: map[int]int{5: 300, 6: 0}}).storeOf(t), api.Table, []asked{
+	wantAsked(t, (&model{table: map[int]int{5: 300, 6: 0}}).storeOf(t), api.Table, api.Head{Size: 32, Root: api.Digest{85, 91}}, []asked{
 		{0, 32, api.Fold{Count: 2, Sum: 300, Min: 0, Max: 300}, whole},
 		{0, 0, api.Fold{}, whole},
 		{32, 32, api.Fold{}, whole},

@@ -41,24 +41,13 @@ func TestGrownFromEverySize(t *testing.T) {
 // The nodes of the beginning put together from the right tell the older head, as the document says.
 func TestGrownTellsOlderHead(t *testing.T) {
 	for _, size := range sizes {
-		m := squares(size)
-		s := m.storeOf(t)
+		s := squares(size).storeOf(t)
 		for old := 1; old <= size; old++ {
 			p, _ := s.Grown(old)
 			nodes, _ := notary.Read(p)
-			last := len(nodes) - 1
-			for i, part := range coverOf(size, 0, old) {
-				if part[1] <= old {
-					last = i
-				}
-			}
-			n := nodes[last]
-			for i := last - 1; i >= 0; i-- {
-				n = aboveTwo(nodes[i], n)
-			}
-			root := digestOf("H" + numberBytes(old) + textOf(n))
-			if h, e := s.Head(api.Log, old); h.Root != root || e != api.OK {
-				t.Errorf("the head at %d of %d: %v, %d, its proof tells %v", old, size, h, e, root)
+			told := headOf(old, beginning(old, size, nodes))
+			if h, e := s.Head(api.Log, old); h != told || e != api.OK {
+				t.Errorf("the head at %d of %d: %v, %d, its proof tells %v", old, size, h, e, told)
 			}
 		}
 	}

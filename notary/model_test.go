@@ -79,18 +79,23 @@ func textOf(n api.Node) string {
 	return numberBytes(f.Count) + numberBytes(f.Sum) + numberBytes(f.Min) + numberBytes(f.Max) + string(n.Hash[:])
 }
 
+// togetherTwo lays the document's words out by cases: a wrong proof may have sums where it counts nothing.
+func togetherTwo(a, b api.Fold) api.Fold {
+	least, most := a.Min, a.Max
+	switch {
+	case a.Count == 0:
+		least, most = b.Min, b.Max
+	case b.Count > 0:
+		least, most = min(least, b.Min), max(most, b.Max)
+	}
+	return api.Fold{Count: a.Count + b.Count, Sum: a.Sum + b.Sum, Min: least, Max: most}
+}
+
 func aboveTwo(l, r api.Node) api.Node {
 	if l == emptyNode() && r == emptyNode() {
 		return emptyNode()
 	}
-	n := api.Node{Fold: l.Fold, Hash: digestOf("I" + textOf(l) + textOf(r))}
-	switch {
-	case l.Fold.Count == 0:
-		n.Fold = r.Fold
-	case r.Fold.Count > 0:
-		n.Fold = api.Fold{Count: l.Fold.Count + r.Fold.Count, Sum: l.Fold.Sum + r.Fold.Sum, Min: min(l.Fold.Min, r.Fold.Min), Max: max(l.Fold.Max, r.Fold.Max)}
-	}
-	return n
+	return api.Node{Fold: togetherTwo(l.Fold, r.Fold), Hash: digestOf("I" + textOf(l) + textOf(r))}
 }
 
 // treeOf puts nodes together from the left as they come, two whole ones of one size at a time, and what is left over at last from the right.
@@ -147,11 +152,25 @@ func partsOf(a, b int) [][2]int {
 	return append(append(l, partsOf(a, a+k)...), partsOf(a+k, b)...)
 }
 
-func (m *model) proof(tree int, from int, to int) string {
+// proofNodes are the nodes of a cover's parts.
+func (m *model) proofNodes(tree int, from int, to int) []api.Node {
 	places := m.places(tree)
-	s := ""
+	var l []api.Node
 	for _, p := range coverOf(len(places), from, to) {
-		if n := treeOf(places[p[0]:p[1]]); n == emptyNode() {
+		l = append(l, treeOf(places[p[0]:p[1]]))
+	}
+	return l
+}
+
+func (m *model) proof(tree int, from int, to int) string {
+	return proofOf(m.proofNodes(tree, from, to)...)
+}
+
+// proofOf is the bytes of the proof that has these nodes.
+func proofOf(nodes ...api.Node) string {
+	s := ""
+	for _, n := range nodes {
+		if n == emptyNode() {
 			s += "\x00"
 		} else {
 			s += "\x01" + textOf(n)
@@ -161,7 +180,11 @@ func (m *model) proof(tree int, from int, to int) string {
 }
 
 func (m *model) head(tree int, size int) api.Head {
-	return api.Head{Size: size, Root: digestOf("H" + numberBytes(size) + textOf(treeOf(m.places(tree)[:size])))}
+	return headOf(size, treeOf(m.places(tree)[:size]))
+}
+
+func headOf(size int, whole api.Node) api.Head {
+	return api.Head{Size: size, Root: digestOf("H" + numberBytes(size) + textOf(whole))}
 }
 
 // storeOf makes the store that the model tells of.

@@ -16,14 +16,6 @@ func Write(nodes []api.Node) (string, api.Errno) { return wire.WriteProof(nodes)
 // Read reads a proof's nodes (P5).
 func Read(b string) ([]api.Node, api.Errno) { return wire.ReadProof(b) }
 
-// Check tells whether a proof shows that the values of a range come to this (P12).
-func Check(tree int, h api.Head, from int, to int, claim api.Fold, proof string) api.Errno {
-	return api.OK
-}
-
-// CheckGrown tells whether a proof shows that a log begins another (P13).
-func CheckGrown(old api.Head, now api.Head, proof string) api.Errno { return api.OK }
-
 // Extract tells, of a wrong answer that Check takes, two texts with one digest (P14).
 func (s *Store) Extract(tree int, from int, to int, claim api.Fold, proof string) (string, string, api.Errno) {
 	return "", "", api.OK

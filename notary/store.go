@@ -60,12 +60,8 @@ func (s *Store) Delete(key int) api.Errno {
 
 // Head tells the head of the log as it was at a size, or of the table (P9).
 func (s *Store) Head(tree int, size int) (api.Head, api.Errno) {
-	now, of, known := s.look(tree)
-	if !known || size < 0 || size > now {
-		return api.Head{}, api.ErrRange
-	}
-	// Unlike the log, the table has no beginnings: its size never was another.
-	if tree == api.Table && size != now {
+	now, of, _ := s.look(tree)
+	if !isSize(tree, size) || size > now {
 		return api.Head{}, api.ErrRange
 	}
 	return trees.Head(size, of), api.OK
@@ -74,7 +70,7 @@ func (s *Store) Head(tree int, size int) (api.Head, api.Errno) {
 // Ask tells what the values of a range come to, and the proof (P10).
 func (s *Store) Ask(tree int, from int, to int) (api.Fold, string, api.Errno) {
 	size, of, known := s.look(tree)
-	if !known || from < 0 || from > to || to > size {
+	if !known || !isRange(from, to, size) {
 		return api.Fold{}, "", api.ErrRange
 	}
 	fold, nodes := trees.Prove(size, trees.Part{From: from, To: to}, of)

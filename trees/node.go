@@ -6,7 +6,7 @@ import (
 	"notary/wire"
 )
 
-// Source tells what a part comes to, if it knows that without the parts below. It knows every part of one place or none.
+// Source tells what a part comes to, if it knows that without the parts below. A part that it does not know can be worked out from parts that it knows.
 type Source func(p Part) (n api.Node, known bool)
 
 // Node works out what the part p comes to.

@@ -24,6 +24,25 @@ func OfTable(values map[int]int) Source {
 	})
 }
 
+// OfProof is the source of the tree of this size of which a proof for the range r has these nodes. It is none if they are not as many as the cover has parts.
+func OfProof(size int, r Part, nodes []api.Node) (of Source, fits bool) {
+	at := map[Part]api.Node{}
+	for p := range Cover(size, r) {
+		if len(nodes) == 0 {
+			return nil, false
+		}
+		at[p] = nodes[0]
+		nodes = nodes[1:]
+	}
+	if len(nodes) > 0 {
+		return nil, false
+	}
+	return func(p Part) (api.Node, bool) {
+		n, known := at[p]
+		return n, known
+	}, true
+}
+
 // ofPlaces is the source that knows the node of each place.
 func ofPlaces(at func(place int) api.Node) Source {
 	return func(p Part) (api.Node, bool) {

@@ -92,3 +92,77 @@ func TestApartAndWithin(t *testing.T) {
 		}
 	}
 }
+
+// The source of a proof knows the parts of the cover, each by its own node, and no other part.
+func TestOfProof(t *testing.T) {
+	for _, c := range []struct {
+		size int
+		r    trees.Part
+	}{
+		{0, trees.Part{From: 0, To: 0}},
+		{1, trees.Part{From: 0, To: 1}},
+		{3, trees.Part{From: 1, To: 2}},
+		{7, trees.Part{From: 2, To: 5}},
+		{64, trees.Part{From: 13, To: 50}},
+	} {
+		cover := slices.Collect(trees.Cover(c.size, c.r))
+		var nodes []api.Node
+		for i := range cover {
+			nodes = append(nodes, api.Node{Fold: api.Fold{Count: i}})
+		}
+		of, fits := trees.OfProof(c.size, c.r, nodes)
+		if !fits {
+			t.Fatalf("%d nodes for %d parts do not fit", len(nodes), len(cover))
+		}
+		for from := range c.size + 1 {
+			for to := from; to <= c.size; to++ {
+				p := trees.Part{From: from, To: to}
+				i := slices.Index(cover, p)
+				if n, known := of(p); known != (i >= 0) || known && n != nodes[i] {
+					t.Errorf("%v of the cover %v: %v, %v", p, cover, n, known)
+				}
+			}
+		}
+		for _, other := range [][]api.Node{nil, nodes[1:], nodes[:len(nodes)-1], append(nodes, api.Node{})} {
+			if of, fits := trees.OfProof(c.size, c.r, other); of != nil || fits {
+				t.Errorf("%d nodes for %d parts fit", len(other), len(cover))
+			}
+		}
+	}
+}
+
+// What is handed in may be written into behind the call.
+func TestOfProofKeepsNothing(t *testing.T) {
+	nodes := []api.Node{{Fold: api.Fold{Count: 1}}, {Fold: api.Fold{Count: 2}}, {Fold: api.Fold{Count: 3}}}
+	of, _ := trees.OfProof(2, trees.Part{From: 0, To: 1}, nodes[:2])
+	clear(nodes)
+	for i := range 2 {
+		if n, known := of(trees.Part{From: i, To: i + 1}); n.Fold.Count != i+1 || !known {
+			t.Errorf("the node %d is %v, %v", i, n, known)
+		}
+	}
+}
+
+// By the nodes of a proof the whole is the same as by the values, and so is each beginning.
+func TestNodeOfProof(t *testing.T) {
+	var values []int
+	for size := range 65 {
+		log := trees.OfLog(values)
+		whole := trees.Part{From: 0, To: size}
+		for to := range size + 1 {
+			r := trees.Part{From: 0, To: to}
+			fold, nodes := trees.Prove(size, r, log)
+			of, _ := trees.OfProof(size, r, nodes)
+			if got, want := trees.Node(whole, of), trees.Node(whole, log); got != want {
+				t.Errorf("all of %d by the proof of %d: %v, want %v", size, to, got, want)
+			}
+			if to > 0 && trees.Node(r, of) != trees.Node(r, log) {
+				t.Errorf("%d of %d: %v, want %v", to, size, trees.Node(r, of), trees.Node(r, log))
+			}
+			if got, _ := trees.Prove(size, r, of); got != fold {
+				t.Errorf("the fold of %d of %d: %v, want %v", to, size, got, fold)
+			}
+		}
+		values = append(values, size*37%64)
+	}
+}

@@ -19,7 +19,7 @@ func MayBe(n api.Node) bool {
 	return IsNumber(f.Count) && IsNumber(f.Sum) && IsNumber(f.Min) && IsNumber(f.Max)
 }
 
-// AppendNode lays the bytes of n behind b. It relies on MayBe(n).
+// AppendNode lays the bytes of n behind b. Where n may not be, what it lays there means nothing.
 func AppendNode(b []byte, n api.Node) []byte {
 	b = AppendNumber(b, n.Fold.Count)
 	b = AppendNumber(b, n.Fold.Sum)

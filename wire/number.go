@@ -12,7 +12,7 @@ func IsNumber(n int) bool {
 	return 0 <= n && n <= maxNumber
 }
 
-// AppendNumber lays the bytes of n behind b. It relies on IsNumber(n).
+// AppendNumber lays the bytes of n behind b. Where n is none of the numbers that have bytes, what it lays there means nothing.
 func AppendNumber(b []byte, n int) []byte {
 	for n >= more {
 		b = append(b, byte(n%more+more))
