@@ -33,9 +33,9 @@ func aboveText(left, right api.Node) string {
 
 // Head tells the head of a tree of this size.
 func Head(size int, of Source) api.Head {
-	return api.Head{Size: size, Root: digest.Of(headText(size, Node(Part{0, size}, of)))}
+	return api.Head{Size: size, Root: digest.Of(headText(size, of))}
 }
 
-func headText(size int, whole api.Node) string {
-	return string(wire.AppendNode(wire.AppendNumber([]byte("H"), size), whole))
+func headText(size int, of Source) string {
+	return string(wire.AppendNode(wire.AppendNumber([]byte("H"), size), Node(Part{0, size}, of)))
 }

@@ -166,3 +166,42 @@ func TestNodeOfProof(t *testing.T) {
 		values = append(values, size*37%64)
 	}
 }
+
+// Two logs with one head: by other entries that are digested alike, above or below one node. The values were worked out apart from this program.
+func TestClash(t *testing.T) {
+	for _, c := range []struct {
+		told, kept    []int
+		first, second string
+	}{
+		{[]int{10752}, []int{5}, "H\x01\x01\x80\x54\x80\x54\x80\x54\x72\xf9", "H\x01\x01\x05\x05\x05\x5d\x61"},
+		{[]int{118, 498}, []int{498, 118}, "I\x01\x76\x76\x76\x5d\xd2\x01\xf2\x03\xf2\x03\xf2\x03\xe7\xc6", "I\x01\xf2\x03\xf2\x03\xf2\x03\xe7\xc6\x01\x76\x76\x76\x5d\xd2"},
+		{[]int{7, 8, 32, 1137}, []int{7, 8, 1137, 32}, "I\x01\x20\x20\x20\x5d\x7c\x01\xf1\x08\xf1\x08\xf1\x08\xe6\xc4", "I\x01\xf1\x08\xf1\x08\xf1\x08\xe6\xc4\x01\x20\x20\x20\x5d\x7c"},
+		{[]int{32, 1137, 7}, []int{1137, 32, 7}, "I\x01\x20\x20\x20\x5d\x7c\x01\xf1\x08\xf1\x08\xf1\x08\xe6\xc4", "I\x01\xf1\x08\xf1\x08\xf1\x08\xe6\xc4\x01\x20\x20\x20\x5d\x7c"},
+	} {
+		size := len(c.told)
+		told, kept := trees.OfLog(c.told), trees.OfLog(c.kept)
+		if first, second, found := trees.Clash(size, told, kept); first != c.first || second != c.second || !found {
+			t.Errorf("%v and %v: %q, %q, %v", c.told, c.kept, first, second, found)
+		}
+		if first, second, found := trees.Clash(size, kept, kept); first != "" || second != "" || found {
+			t.Errorf("%v and itself: %q, %q, %v", c.kept, first, second, found)
+		}
+	}
+}
+
+// A tree has no clash with itself, by whatever proof of it.
+func TestNoClash(t *testing.T) {
+	var values []int
+	for size := range 34 {
+		log := trees.OfLog(values)
+		for to := range size + 1 {
+			r := trees.Part{From: to / 2, To: to}
+			_, nodes := trees.Prove(size, r, log)
+			of, _ := trees.OfProof(size, r, nodes)
+			if first, second, found := trees.Clash(size, of, log); first != "" || second != "" || found {
+				t.Errorf("%v of %d: %q, %q, %v", r, size, first, second, found)
+			}
+		}
+		values = append(values, size*37%64)
+	}
+}
